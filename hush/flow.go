@@ -1,0 +1,60 @@
+// Package hush: programs that keep secrets: see DOC.md.
+package hush
+
+// Errno is what a call answers: OK or the reason for a refusal.
+type Errno int
+
+const (
+	OK        Errno = 0
+	ErrLong   Errno = 1 // a text above its bound
+	ErrOrder  Errno = 2 // no order
+	ErrLevels Errno = 3 // levels that are not well ordered
+	ErrSyntax Errno = 4 // no program
+	ErrProc   Errno = 5 // a procedure that is not there
+	ErrFlow   Errno = 6 // a secret might be told
+	ErrRange  Errno = 7 // a number out of its range
+)
+
+// Event is a number that was put out, and its level.
+type Event struct{ Level, Val int }
+
+// Order tells whether a text is an order of levels (P3).
+func Order(order string) (Errno, int) {
+	l := readLevels(order)
+	return l.fault.errno, l.fault.place
+}
+
+// Join answers the join of two levels (P4).
+func Join(order string, a int, b int) (int, Errno) {
+	l := readLevels(order)
+	if l.fault.errno != OK {
+		return 0, l.fault.errno
+	}
+	if !l.has(a) || !l.has(b) {
+		return 0, ErrRange
+	}
+	return l.join(a, b), OK
+}
+
+// Check tells whether a text is a program (P5). Whether the program keeps its
+// secrets (P6, P7) is still to be built: no answer is ErrFlow yet.
+func Check(order string, text string) (Errno, int) {
+	l := readLevels(order)
+	if l.fault.errno != OK {
+		return l.fault.errno, l.fault.place
+	}
+	p := readProgram(text, l.count)
+	return p.fault.errno, p.fault.place
+}
+
+// Labels is to answer the lowest labelling (P7); until that is built it
+// answers zero values.
+func Labels(order string, text string) ([]int, Errno) {
+	return nil, OK
+}
+
+// Run is to run a program (P8 to P11); until that is built it answers zero
+// values.
+func Run(order string, text string, in [][]int, fuel int) ([]Event, int, Errno) {
+	return nil, 0, OK
+}
