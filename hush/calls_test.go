@@ -57,8 +57,8 @@ func TestP1Programs(t *testing.T) {
 			e, place := hush.Check(order, text)
 			wantPlace(t, "Check", e, place, max(len(order), len(text)))
 			labels, le := hush.Labels(order, text)
-			if le != hush.OK && labels != nil {
-				t.Errorf("Labels(%.70q, %.70q) = %v with the error %d", order, text, labels, le)
+			if le != e || (le != hush.OK) != (labels == nil) {
+				t.Errorf("Labels(%.70q, %.70q) = %v with the error %d, and of Check %d", order, text, labels, le, e)
 			}
 			for i, fuel := range oddNumbers {
 				out, end, re := hush.Run(order, text, inputs[i%len(inputs)], fuel)

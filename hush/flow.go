@@ -36,21 +36,19 @@ func Join(order string, a int, b int) (int, Errno) {
 	return l.join(a, b), OK
 }
 
-// Check tells whether a text is a program (P5). Whether the program keeps its
-// secrets (P6, P7) is still to be built: no answer is ErrFlow yet.
+// Check tells whether a program keeps its secrets (P5 to P7).
 func Check(order string, text string) (Errno, int) {
-	l := readLevels(order)
-	if l.fault.errno != OK {
-		return l.fault.errno, l.fault.place
-	}
-	p := readProgram(text, l.count)
-	return p.fault.errno, p.fault.place
+	f := readFlow(order, text)
+	return f.fault.errno, f.fault.place
 }
 
-// Labels is to answer the lowest labelling (P7); until that is built it
-// answers zero values.
+// Labels answers the lowest labelling (P7).
 func Labels(order string, text string) ([]int, Errno) {
-	return nil, OK
+	f := readFlow(order, text)
+	if f.fault.errno != OK {
+		return nil, f.fault.errno
+	}
+	return f.list(), OK
 }
 
 // Run is to run a program (P8 to P11); until that is built it answers zero

@@ -12,12 +12,15 @@ type fault struct {
 	place int
 }
 
-// lattice is what an order says: the levels 0 to count-1, and which of them
-// are below which. If there is a fault it has no levels.
+// lattice is what an order says: the levels 0 to count-1, which of them are
+// below which, their joins, and the bottom. If there is a fault it has no
+// levels.
 type lattice struct {
-	fault fault
-	count int
-	below [maxLevels][maxLevels]bool
+	fault  fault
+	count  int
+	below  [maxLevels][maxLevels]bool
+	joins  [maxLevels][maxLevels]int
+	bottom int
 }
 
 func readLevels(order string) lattice {
@@ -32,6 +35,8 @@ func readLevels(order string) lattice {
 	if !l.wellOrdered() {
 		return lattice{fault: fault{errno: ErrLevels}}
 	}
+	l.keepJoins()
+	l.bottom = l.findBottom()
 	return l
 }
 
@@ -116,7 +121,7 @@ func (l *lattice) hasCircle() bool {
 func (l *lattice) hasJoins() bool {
 	for a := 0; a < l.count; a++ {
 		for b := 0; b < a; b++ {
-			if l.join(a, b) == noLevel {
+			if l.findJoin(a, b) == noLevel {
 				return false
 			}
 		}
@@ -134,9 +139,27 @@ func (l *lattice) turned() lattice {
 	return t
 }
 
-// join answers noLevel if a and b have no join: so it may be in levels that
-// are not well ordered, or if one of the two is no level.
+// keepJoins is for speed alone: a labelling asks for joins all the time, and
+// to find one takes a look at all pairs of levels.
+func (l *lattice) keepJoins() {
+	for a := 0; a < l.count; a++ {
+		for b := 0; b < l.count; b++ {
+			l.joins[a][b] = l.findJoin(a, b)
+		}
+	}
+}
+
+// join answers noLevel if a or b is no level.
 func (l *lattice) join(a int, b int) int {
+	if !l.has(a) || !l.has(b) {
+		return noLevel
+	}
+	return l.joins[a][b]
+}
+
+// findJoin answers noLevel if a and b have no join, as it may be in levels
+// that are not well ordered.
+func (l *lattice) findJoin(a int, b int) int {
 	for c := 0; c < l.count; c++ {
 		if l.isJoin(a, b, c) {
 			return c
@@ -155,6 +178,17 @@ func (l *lattice) isJoin(a int, b int, c int) bool {
 		}
 	}
 	return true
+}
+
+// findBottom needs levels that are well ordered: others need not have one.
+func (l *lattice) findBottom() int {
+	bottom := 0
+	for a := 1; a < l.count; a++ {
+		if l.isBelow(a, bottom) {
+			bottom = a
+		}
+	}
+	return bottom
 }
 
 func (l *lattice) bothBelow(a int, b int, c int) bool {

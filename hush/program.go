@@ -7,8 +7,8 @@ const (
 )
 
 // The parts of a program behind its variables. Every byte there begins a part,
-// and tells alone which parts that part is made of. So a text of these
-// letters, for what must still stand, is all that a reader has to remember.
+// and tells alone which parts that part is made of: a text of these letters
+// names them.
 const (
 	statementPart  = 's'
 	expressionPart = 'e'
@@ -18,87 +18,99 @@ const (
 )
 
 // program is what is known of a program's text: how many levels it may name,
-// how many variables and procedures it has, and the places of the digits that
-// call procedures, which can be judged only when all procedures are counted.
+// how many variables and procedures it has, and the places of its statements,
+// of which the first is the main one.
 type program struct {
 	fault  fault
+	text   string
 	levels int
 	vars   int
 	procs  int
-	calls  []int
+	starts [1 + maxProcs]int
+	// The places of the parts of the part that begins at a place.
+	parts [maxText][3]int
+	// The places of the digits that call procedures, which can be judged only
+	// when all procedures are counted.
+	calls []int
 }
 
 func readProgram(text string, levels int) program {
 	if len(text) > maxText {
 		return program{fault: fault{errno: ErrLong}}
 	}
-	p := readParts(text, levels)
+	p := program{text: text, levels: levels}
+	p.countVars()
+	p.readStatements()
+	if p.fault.errno == OK {
+		p.findMissingProc()
+	}
+	return p
+}
+
+func (p *program) countVars() {
+	for p.vars < len(p.text) && p.vars < maxVars {
+		c := p.text[p.vars]
+		if c != '?' && !isDigit(c, p.levels) {
+			return
+		}
+		p.vars++
+	}
+}
+
+func (p *program) readStatements() {
+	at := p.readMark(':', p.vars)
+	p.starts[0] = at
+	at = p.readPart(statementPart, at)
+	for p.fault.errno == OK && at < len(p.text) {
+		if p.procs >= maxProcs {
+			p.refuse(at)
+			return
+		}
+		at = p.readMark(';', at)
+		p.procs++
+		p.starts[p.procs] = at
+		at = p.readPart(statementPart, at)
+	}
+}
+
+func (p *program) readMark(mark byte, at int) int {
+	if at >= len(p.text) || p.text[at] != mark {
+		p.refuse(at)
+	}
+	return at + 1
+}
+
+// refuse keeps the first fault: what is read behind it is of no account.
+func (p *program) refuse(place int) {
+	if p.fault.errno == OK {
+		p.fault = fault{errno: ErrSyntax, place: place}
+	}
+}
+
+// readPart reads the part that begins at a place, with the parts that it is
+// made of, and answers the place behind it.
+func (p *program) readPart(part byte, at int) int {
 	if p.fault.errno != OK {
-		return p
+		return at
 	}
-	place, missing := p.missingProc(text)
-	if missing {
-		return program{fault: fault{errno: ErrProc, place: place}}
+	if at >= len(p.text) {
+		p.refuse(at)
+		return at
 	}
-	return p
-}
-
-func readParts(text string, levels int) program {
-	p := program{levels: levels, vars: countVars(text, levels)}
-	if p.vars >= len(text) || text[p.vars] != ':' {
-		return noProgram(p.vars)
-	}
-	owed := "s"
-	for at := p.vars + 1; at < len(text); at++ {
-		next, ok := p.readByte(text[at], at, owed)
-		if !ok {
-			return noProgram(at)
-		}
-		owed = next
-	}
-	if owed != "" {
-		return noProgram(len(text))
-	}
-	return p
-}
-
-func noProgram(place int) program {
-	return program{fault: fault{errno: ErrSyntax, place: place}}
-}
-
-func countVars(text string, levels int) int {
-	count := 0
-	for count < len(text) && count < maxVars {
-		if text[count] != '?' && !isDigit(text[count], levels) {
-			return count
-		}
-		count++
-	}
-	return count
-}
-
-// readByte takes what is owed ahead of the byte c and answers what is owed
-// behind it; false, if c cannot stand there.
-func (p *program) readByte(c byte, at int, owed string) (string, bool) {
-	if owed == "" {
-		return p.beginProc(c)
-	}
-	parts, ok := p.partsBehind(c, owed[0])
+	inner, ok := p.partsBehind(p.text[at], part)
 	if !ok {
-		return "", false
+		p.refuse(at)
+		return at
 	}
-	if owed[0] == procedurePart {
+	if part == procedurePart {
 		p.calls = append(p.calls, at)
 	}
-	return parts + owed[1:], true
-}
-
-func (p *program) beginProc(c byte) (string, bool) {
-	if c != ';' || p.procs >= maxProcs {
-		return "", false
+	next := at + 1
+	for i := 0; i < len(inner); i++ {
+		p.parts[at][i] = next
+		next = p.readPart(inner[i], next)
 	}
-	p.procs++
-	return "s", true
+	return next
 }
 
 // partsBehind answers the parts that the byte c asks for; false, if c cannot
@@ -142,25 +154,43 @@ func statementParts(c byte) (string, bool) {
 }
 
 func (p *program) expressionParts(c byte) (string, bool) {
-	switch c {
-	case '+', '-', '*', '/', '<':
+	if isOperator(c) {
 		return "ee", true
 	}
 	return "", isDigit(c, 10) || p.isVariable(c)
+}
+
+func isOperator(c byte) bool {
+	return c == '+' || c == '-' || c == '*' || c == '/' || c == '<'
 }
 
 func (p *program) isVariable(c byte) bool {
 	return c >= 'a' && int(c-'a') < p.vars
 }
 
-// missingProc answers the place of the first call of a procedure that is not
-// there; false, if all are there.
-func (p *program) missingProc(text string) (int, bool) {
+func (p *program) findMissingProc() {
 	for i := 0; i < len(p.calls); i++ {
-		called, ok := digitAt(text, p.calls[i], maxProcs)
-		if !ok || called >= p.procs {
-			return p.calls[i], true
+		if p.digit(p.calls[i]) >= p.procs {
+			p.fault = fault{errno: ErrProc, place: p.calls[i]}
+			return
 		}
 	}
-	return 0, false
+}
+
+// digit answers the number, level or procedure at a place where the reader has
+// found one.
+func (p *program) digit(at int) int {
+	return int(p.text[at] - '0')
+}
+
+// variable answers the number of the variable at a place where the reader has
+// found one.
+func (p *program) variable(at int) int {
+	return int(p.text[at] - 'a')
+}
+
+// isOpen tells whether the level of a variable is to be worked out. The
+// variables' levels are the text's first bytes.
+func (p *program) isOpen(variable int) bool {
+	return p.text[variable] == '?'
 }
