@@ -62,7 +62,11 @@ func TestP1Programs(t *testing.T) {
 			}
 			for i, fuel := range oddNumbers {
 				out, end, re := hush.Run(order, text, inputs[i%len(inputs)], fuel)
-				if re != hush.OK && (out != nil || end != 0) {
+				want := e
+				if e == hush.OK && (fuel < 0 || fuel > plenty) {
+					want = hush.ErrRange
+				}
+				if re != want || re != hush.OK && (out != nil || end != 0) || end < 0 || end > 2 {
 					t.Errorf("Run(%.70q, %.70q, .., %d) = %v, %d with the error %d", order, text, fuel, out, end, re)
 				}
 			}

@@ -51,8 +51,16 @@ func Labels(order string, text string) ([]int, Errno) {
 	return f.list(), OK
 }
 
-// Run is to run a program (P8 to P11); until that is built it answers zero
-// values.
+// Run runs a program that keeps its secrets (P8 to P11).
 func Run(order string, text string, in [][]int, fuel int) ([]Event, int, Errno) {
-	return nil, 0, OK
+	f := readFlow(order, text)
+	if f.fault.errno != OK {
+		return nil, 0, f.fault.errno
+	}
+	if fuel < 0 || fuel > maxFuel {
+		return nil, 0, ErrRange
+	}
+	r := beginRun(f.program, in, fuel)
+	end := r.whole()
+	return r.out, int(end), OK
 }
